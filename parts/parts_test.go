@@ -289,6 +289,16 @@ func TestP2_2ScaleAndTimes(t *testing.T) {
 	want(t, "Scale of an infinite part", parts.Scale(complex(infinite, 0), -2), complex(-infinite, minusNought))
 }
 
+// A sum behind Scale must not reach into it: its products are rounded.
+func TestP2_2ScaleIsRounded(t *testing.T) {
+	d := newDice()
+	for range 20000 {
+		a, b, s := d.number(4), d.number(4), d.part(4)
+		sum := complex(plus(times(real(a), s), real(b)), plus(times(imag(a), s), imag(b)))
+		want(t, "Scale and Add", parts.Add(parts.Scale(a, s), b), sum)
+	}
+}
+
 func TestP2_3Div(t *testing.T) {
 	couples(func(a, b complex128) {
 		if got := parts.Div(a, b); !same(got, quotient(a, b)) {
