@@ -18,12 +18,12 @@ func Zeros(l []complex128, b api.Box) (int, api.Errno) {
 	if e := checkBox(b); e != api.OK {
 		return 0, e
 	}
-	corners, unit := gridOf([]complex128{b.Low, b.High})
+	corners, unit := whole.Grid([]complex128{b.Low, b.High})
 	for parts.Like(l[len(l)-1], 0) {
 		l = l[:len(l)-1]
 	}
-	coefficients, _ := gridOf(l)
-	return zerosInside(stretched(coefficients, unit), corners[0], corners[1])
+	coefficients, _ := whole.Grid(l)
+	return zerosInside(whole.Stretched(coefficients, unit), corners[0], corners[1])
 }
 
 func checkCoefficients(l []complex128) api.Errno {
@@ -61,23 +61,23 @@ func isMiddling(a float64) bool {
 
 // side is a side of a box, gone along to the right or upward.
 type side struct {
-	start    point // a place on its line, where the imaginary or the real part is nought
+	start    whole.Point // a place on its line, where the imaginary or the real part is nought
 	upward   bool
 	from, to whole.Number
 	way      int // -1, if a way round the box to the left goes along it backward
 }
 
-func sidesOf(low, high point) []side {
+func sidesOf(low, high whole.Point) []side {
 	return []side{
-		{point{im: low.im}, false, low.re, high.re, 1},
-		{point{re: high.re}, true, low.im, high.im, 1},
-		{point{im: high.im}, false, low.re, high.re, -1},
-		{point{re: low.re}, true, low.im, high.im, -1},
+		{whole.Point{Im: low.Im}, false, low.Re, high.Re, 1},
+		{whole.Point{Re: high.Re}, true, low.Im, high.Im, 1},
+		{whole.Point{Im: high.Im}, false, low.Re, high.Re, -1},
+		{whole.Point{Re: low.Re}, true, low.Im, high.Im, -1},
 	}
 }
 
 // zerosInside is how often the polynomial's values go round nought while the place goes round the box. Along a side the values' parts are real polynomials; how often their quotient jumps from below to above all bounds, less how often back, their chain tells, by its sign changes at both ends (half a jump, where it is at an end). Twice round it is for each turn.
-func zerosInside(l []point, low, high point) (int, api.Errno) {
+func zerosInside(l []whole.Point, low, high whole.Point) (int, api.Errno) {
 	fourfold := 0
 	for _, s := range sidesOf(low, high) {
 		re, im := s.partsAlong(l)
@@ -91,25 +91,25 @@ func zerosInside(l []point, low, high point) (int, api.Errno) {
 }
 
 // partsAlong are the real and the imaginary part of the polynomial's values along the side's line.
-func (s side) partsAlong(l []point) (re, im polynomial) {
+func (s side) partsAlong(l []whole.Point) (re, im polynomial) {
 	for i, a := range shifted(l, s.start) {
 		if s.upward {
 			for range i % 4 {
-				a = a.quarter()
+				a = a.Quarter()
 			}
 		}
-		re, im = append(re, a.re), append(im, a.im)
+		re, im = append(re, a.Re), append(im, a.Im)
 	}
 	return trimmed(re).lowest(), trimmed(im).lowest()
 }
 
 // shifted are the coefficients of the polynomial at by + z.
-func shifted(l []point, by point) []point {
-	out := make([]point, len(l))
+func shifted(l []whole.Point, by whole.Point) []whole.Point {
+	out := make([]whole.Point, len(l))
 	copy(out, l)
 	for i := range out {
 		for j := len(out) - 2; j >= i; j-- {
-			out[j] = out[j].plus(out[j+1].times(by))
+			out[j] = out[j].Plus(out[j+1].Times(by))
 		}
 	}
 	return out
