@@ -6,6 +6,9 @@ type Point struct{ Re, Im Number }
 // Plus is a and b together.
 func (a Point) Plus(b Point) Point { return Point{a.Re.Plus(b.Re), a.Im.Plus(b.Im)} }
 
+// Minus is a less b.
+func (a Point) Minus(b Point) Point { return Point{a.Re.Minus(b.Re), a.Im.Minus(b.Im)} }
+
 // Times is a times b.
 func (a Point) Times(b Point) Point {
 	return Point{
@@ -25,6 +28,9 @@ func (a Point) Quarter() Point { return Point{a.Im.Neg(), a.Re} }
 
 // Norm is the square of a's length.
 func (a Point) Norm() Number { return a.Re.Times(a.Re).Plus(a.Im.Times(a.Im)) }
+
+// Cross is above nought, if b leads to the left of a, and below, if it leads to the right: twice the area of the triangle between them.
+func (a Point) Cross(b Point) Number { return a.Re.Times(b.Im).Minus(a.Im.Times(b.Re)) }
 
 // Grid counts finite complex numbers in units of one power of two, at most 1, in which all of them are whole.
 func Grid(l []complex128) (points []Point, unit int) {

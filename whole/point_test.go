@@ -23,6 +23,8 @@ func (a bigPoint) times(b bigPoint) bigPoint {
 	return bigPoint{re.Sub(re, product(a.im, b.im)), im.Add(im, product(a.im, b.re))}
 }
 
+func (a bigPoint) conj() bigPoint { return bigPoint{a.re, new(big.Int).Neg(a.im)} }
+
 func pointOf(t *testing.T, a bigPoint) whole.Point {
 	t.Helper()
 	return whole.Point{Re: of(t, a.re), Im: of(t, a.im)}
@@ -40,10 +42,12 @@ func TestPoints(t *testing.T) {
 		x, y := d.point(4), d.point(4)
 		a, b := pointOf(t, x), pointOf(t, y)
 		wantPoint(t, "Plus", a.Plus(b), x.plus(y))
+		wantPoint(t, "Minus", a.Minus(b), x.plus(y.times(bigPoint{big.NewInt(-1), new(big.Int)})))
 		wantPoint(t, "Times", a.Times(b), x.times(y))
 		wantPoint(t, "Scale", a.Scale(b.Re), x.times(bigPoint{y.re, new(big.Int)}))
 		wantPoint(t, "Quarter", a.Quarter(), x.times(bigPoint{new(big.Int), big.NewInt(1)}))
-		want(t, "Norm", a.Norm(), x.times(bigPoint{x.re, new(big.Int).Neg(x.im)}).re)
+		want(t, "Norm", a.Norm(), x.times(x.conj()).re)
+		want(t, "Cross", a.Cross(b), x.conj().times(y).im)
 		n := d.below(200)
 		wantPoint(t, "Left", a.Left(n), x.times(bigPoint{new(big.Int).Lsh(big.NewInt(1), uint(n)), new(big.Int)}))
 	}
