@@ -16,7 +16,7 @@ const (
 	at = iota
 	slope
 	back
-	other
+	backOther
 	deeds
 )
 
